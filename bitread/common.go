@@ -1,0 +1,47 @@
+package bitread
+
+import (
+	"errors"
+
+	"flacpair/api"
+)
+
+const maxBits = 64
+
+// common is what both readers have: what came of the source, and how many bits of it were read. It is by these two alone that errors are found, so that both kinds tell the same.
+type common struct {
+	feed
+	at int
+}
+
+// At tells how many bits have been read.
+func (c *common) At() int { return c.at }
+
+// ask tells what stands in the way of reading n bits.
+func (c *common) ask(n int) error {
+	if n < 0 || n > maxBits {
+		return c.fail(api.ErrArg)
+	}
+	return c.want(n)
+}
+
+// want sees to it that n bits more have come.
+func (c *common) want(n int) error {
+	for 8*c.came()-c.at < n {
+		if err := c.more(c.at / 8); err != nil {
+			return c.fail(err)
+		}
+	}
+	return nil
+}
+
+// fail tells an error with its place.
+func (c *common) fail(err error) error {
+	if errors.Is(err, api.EOF) {
+		err = api.ErrEnd
+	}
+	return &api.Error{Place: api.Place{Frame: -1, At: c.at / 8}, Err: err}
+}
+
+// rest tells how many bits are left of a byte of which a part has been read. They have come, as that part did.
+func (c *common) rest() int { return -c.at & 7 }

@@ -40,3 +40,41 @@ func TestPoolEndsWithAByte(t *testing.T) {
 		}
 	}
 }
+
+func TestSkipFromAnyBit(t *testing.T) {
+	src := endless{"\x9e\x37\x79\xb9\x7f\x4a\x7c"}
+	for ahead := range 70 {
+		for _, n := range []int{0, 1, 7, 8, 9, 63, 64, 65, 8*api.MaxRead - 1, 8 * api.MaxRead, 8*api.MaxRead + 1, 100003} {
+			want := pattern(src.text, ahead+n)
+			for kind, r := range []Reader{New(src, api.Slow), New(src, api.Fast)} {
+				r.Read(ahead / 2)
+				r.Read(ahead - ahead/2)
+				err := r.Skip(n)
+				v, _ := r.Read(64)
+				if err != nil || v != want || r.At() != ahead+n+64 {
+					t.Fatalf("%d, then Skip(%d), kind %d: %v, then %x at %d, want %x", ahead, n, kind, err, v, r.At(), want)
+				}
+			}
+		}
+	}
+}
+
+// pattern tells 64 bits of a text that is repeated, from bit at on.
+func pattern(text string, at int) uint64 {
+	v := uint64(0)
+	for i := at; i < at+64; i++ {
+		v = v<<1 | uint64(text[i/8%len(text)]>>(7-i%8)&1)
+	}
+	return v
+}
+
+// Passing over much must not keep it.
+func TestSkipNeedsNoRoom(t *testing.T) {
+	src := endless{strings.Repeat("\x35", api.MaxRead)}
+	slow, fast := NewSlow(src), NewFast(src)
+	slow.Skip(1 << 27)
+	fast.Skip(1 << 27)
+	if len(slow.have) > 2*api.MaxRead || len(fast.have) > 2*api.MaxRead {
+		t.Errorf("%d and %d bytes are kept", len(slow.have), len(fast.have))
+	}
+}

@@ -35,6 +35,19 @@ func (c *common) want(n int) error {
 	return nil
 }
 
+// pass goes over n bits piece by piece, so that many need no more room than few.
+func (c *common) pass(n int) error {
+	for n > 0 {
+		piece := min(n, 8*api.MaxRead)
+		if err := c.want(piece); err != nil {
+			return err
+		}
+		c.at += piece
+		n -= piece
+	}
+	return nil
+}
+
 // fail tells an error with its place.
 func (c *common) fail(err error) error {
 	if errors.Is(err, api.EOF) {

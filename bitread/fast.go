@@ -45,6 +45,13 @@ func (f *Fast) Unary() (int, error) {
 // Align reads the rest of the byte, and tells if it was noughts.
 func (f *Fast) Align() (bool, error) { return f.take(f.rest()) == 0, nil }
 
+// Skip passes over n bits. If they do not all come, it has passed over some of them.
+func (f *Fast) Skip(n int) error {
+	err := f.pass(n)
+	f.move(f.at)
+	return err
+}
+
 // longUnary looks for the one behind the pool, which holds none. Nothing is read until it is found.
 func (f *Fast) longUnary() (int, error) {
 	i := f.next()
@@ -53,10 +60,9 @@ func (f *Fast) longUnary() (int, error) {
 			return 0, err
 		}
 		if x := f.byteAt(i); x != 0 {
-			n := 8*i + bits.LeadingZeros8(x) - f.at
-			f.refill(i)
-			f.at = 8 * i
-			f.drop(bits.LeadingZeros8(x) + 1)
+			one := 8*i + bits.LeadingZeros8(x)
+			n := one - f.at
+			f.move(one + 1)
 			return n, nil
 		}
 		i++
@@ -83,10 +89,12 @@ func (f *Fast) drop(n int) {
 // next tells the first byte that is not in the pool.
 func (f *Fast) next() int { return (f.at + f.held) / 8 }
 
-// refill fills an emptied pool from byte i on.
-func (f *Fast) refill(i int) {
+// move goes on at a bit of what has come, or right behind it, with a pool filled anew.
+func (f *Fast) move(bit int) {
 	f.pool, f.held = 0, 0
-	f.fill(i)
+	f.at = bit / 8 * 8
+	f.fill(bit / 8)
+	f.drop(bit % 8)
 }
 
 // fill adds whole bytes, from byte i on, as far as they have come and have room.

@@ -36,6 +36,9 @@ func (s *Slow) Unary() (int, error) {
 // Align reads the rest of the byte, and tells if it was noughts.
 func (s *Slow) Align() (bool, error) { return s.take(s.rest()) == 0, nil }
 
+// Skip passes over n bits. If they do not all come, it has passed over some of them.
+func (s *Slow) Skip(n int) error { return s.pass(n) }
+
 // take reads n bits that have come.
 func (s *Slow) take(n int) uint64 {
 	v := uint64(0)

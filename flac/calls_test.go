@@ -113,17 +113,6 @@ func TestP1NoSource(t *testing.T) {
 	}
 }
 
-// KIND: no decoder of another kind.
-func TestWrongKindOfDecoder(t *testing.T) {
-	for _, kind := range []int{-1, 2, math.MinInt, math.MaxInt} {
-		d, err := flac.Open(texts("fLaC"), kind)
-		wantError(t, "Open", err, api.ErrArg, -1, 0)
-		if d != nil {
-			t.Errorf("kind %d: %v beside an error", kind, d)
-		}
-	}
-}
-
 // P2: readers are changed by calls on themselves alone.
 func TestP2ReadersStandAlone(t *testing.T) {
 	d := dice(2)

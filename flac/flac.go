@@ -4,6 +4,7 @@ package flac
 import (
 	"flacpair/api"
 	"flacpair/bitread"
+	"flacpair/stream"
 	"flacpair/sums"
 )
 
@@ -31,19 +32,19 @@ func Bits(src api.Source, kind int) (api.Bits, error) {
 	if !isKind(kind) || src == nil {
 		return nil, wrongArgument()
 	}
-	if kind == api.Fast {
-		return bitread.NewFast(src), nil
-	}
-	return bitread.NewSlow(src), nil
+	return bitread.New(src, kind), nil
 }
 
 // Open makes a decoder, which has read the stream's head (P6).
-// The decoders are not built yet: of a right kind it answers nothing.
 func Open(src api.Source, kind int) (api.Decoder, error) {
-	if !isKind(kind) {
+	if !isKind(kind) || src == nil {
 		return nil, wrongArgument()
 	}
-	return nil, nil
+	d, err := stream.Open(src, kind)
+	if err != nil {
+		return nil, err
+	}
+	return d, nil
 }
 
 func isKind(kind int) bool { return kind == api.Slow || kind == api.Fast }

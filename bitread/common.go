@@ -11,7 +11,9 @@ const maxBits = 64
 // common is what both readers have: what came of the source, and how many bits of it were read. It is by these two alone that errors are found, so that both kinds tell the same.
 type common struct {
 	feed
-	at int
+	at     int
+	marked bool
+	mark   int // a byte; if it is marked, what came from there on is kept
 }
 
 // At tells how many bits have been read.
@@ -28,12 +30,29 @@ func (c *common) ask(n int) error {
 // want sees to it that n bits more have come.
 func (c *common) want(n int) error {
 	for 8*c.came()-c.at < n {
-		if err := c.more(c.at / 8); err != nil {
+		if err := c.more(c.keep()); err != nil {
 			return c.fail(err)
 		}
 	}
 	return nil
 }
+
+// keep tells the first byte that may still be asked for.
+func (c *common) keep() int {
+	if c.marked {
+		return c.mark
+	}
+	return c.at / 8
+}
+
+// Mark marks the byte at which the reader stands, in place of an earlier one.
+func (c *common) Mark() { c.marked, c.mark = true, c.at/8 }
+
+// Marked tells the bytes from the mark on that have been read whole. They are the reader's own, and stay until the next call on it.
+func (c *common) Marked() []byte { return c.have[c.mark-c.gone : c.at/8-c.gone] }
+
+// Ended tells if the source has said that there is no more right here.
+func (c *common) Ended() bool { return c.want(1) != nil && errors.Is(c.stop, api.EOF) }
 
 // pass goes over n bits piece by piece, so that many need no more room than few.
 func (c *common) pass(n int) error {

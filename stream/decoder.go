@@ -1,29 +1,31 @@
-// Package stream: decoders of streams, of both kinds (P6).
+// Package stream: decoders of streams, of both kinds (P6 to P12).
 package stream
 
 import (
-	"errors"
-
 	"flacpair/api"
 	"flacpair/bitread"
+	"flacpair/sums"
 )
 
 // noFrame is the frame's number in the place of an error of the head.
 const noFrame = -1
 
-var errFrames = errors.New("frames are not decoded yet")
-
 // Decoder decodes a stream.
 type Decoder struct {
-	in    input
-	info  api.Info
-	frame int // the number of the frame that is read, or noFrame
-	at    int // up to which byte all was decoded whole; while the head is read, where its part begins that is read now
+	in       input
+	crc      sums.CRC
+	info     api.Info
+	frame    int       // the number of the frame that is read, or noFrame
+	at       int       // up to which byte all was decoded whole; while the head is read, where its part begins that is read now
+	variable bool      // what the first frame says of block sizes
+	samples  int       // how many of a channel stand in the frames ahead
+	md5      *sums.MD5 // of these
+	failed   error     // the first error of Next, without its place
 }
 
 // Open makes a decoder of a kind, which has read the stream's head.
 func Open(src api.Source, kind int) (*Decoder, error) {
-	d := &Decoder{in: input{bitread.New(src, kind)}, frame: noFrame}
+	d := &Decoder{in: input{bitread.New(src, kind)}, crc: sums.NewCRC(kind), frame: noFrame, md5: sums.NewMD5()}
 	if err := attempt(d.readHead); err != nil {
 		return nil, d.placed(err)
 	}
@@ -37,10 +39,22 @@ func (d *Decoder) Info() api.Info { return d.info }
 // At tells up to which byte all was decoded whole.
 func (d *Decoder) At() int { return d.at }
 
-// Next will tell the next frame. Frames are not decoded yet, and it says so.
-func (d *Decoder) Next() (api.Block, error) { return api.Block{}, d.placed(errFrames) }
+// Next tells the next frame's samples. Behind its first error it tells that one again and again.
+func (d *Decoder) Next() (api.Block, error) {
+	var block api.Block
+	if d.failed == nil {
+		d.failed = attempt(func() { block = d.readFrame() })
+	}
+	switch d.failed {
+	case nil:
+		return block, nil
+	case api.EOF:
+		return api.Block{}, api.EOF
+	}
+	return api.Block{}, d.placed(d.failed)
+}
 
-// placed tells an error with its place.
+// placed tells an error with its place. Each time it is a new one, as the caller may write into it.
 func (d *Decoder) placed(err error) error {
 	return &api.Error{Place: api.Place{Frame: d.frame, At: d.at}, Err: err}
 }

@@ -5,6 +5,13 @@ type fault struct{ err error }
 
 func throw(err error) { panic(fault{err}) }
 
+// check throws an error, unless all is right.
+func check(right bool, err error) {
+	if !right {
+		throw(err)
+	}
+}
+
 // attempt does what may throw a fault, and tells the fault's error. A panic of another kind is not the stream's doing, and goes on.
 func attempt(work func()) (err error) {
 	defer func() {

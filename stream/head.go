@@ -28,22 +28,16 @@ func (d *Decoder) readHead() {
 }
 
 func (d *Decoder) readMarker() {
-	if d.in.read(32) != marker {
-		throw(api.ErrMarker)
-	}
+	check(d.in.read(32) == marker, api.ErrMarker)
 	d.whole()
 }
 
 // readFirst reads the first block, and tells if it is the last, too.
 func (d *Decoder) readFirst() bool {
 	head := d.readBlockHead()
-	if head.kind != infoKind || head.length != infoLength {
-		throw(api.ErrMeta)
-	}
+	check(head.kind == infoKind && head.length == infoLength, api.ErrMeta)
 	d.info = d.readInfo()
-	if !isInfo(d.info) {
-		throw(api.ErrInfo)
-	}
+	check(isInfo(d.info), api.ErrInfo)
 	d.whole()
 	return head.last
 }
@@ -51,9 +45,7 @@ func (d *Decoder) readFirst() bool {
 // passLater passes over a later block, and tells if it is the last.
 func (d *Decoder) passLater() bool {
 	head := d.readBlockHead()
-	if head.kind == infoKind || head.kind == wrongKind {
-		throw(api.ErrMeta)
-	}
+	check(head.kind != infoKind && head.kind != wrongKind, api.ErrMeta)
 	d.in.skip(head.length)
 	d.whole()
 	return head.last

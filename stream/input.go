@@ -18,6 +18,33 @@ func (in input) read(n int) int {
 	return int(v)
 }
 
+// signed reads a number of n bits with its sign, at most 63.
+func (in input) signed(n int) int {
+	v := in.read(n)
+	if n > 0 && v>>(n-1) == 1 {
+		v -= 1 << n
+	}
+	return v
+}
+
+// unary reads the noughts ahead of the next one, and that one, and tells how many noughts there were.
+func (in input) unary() int {
+	n, err := in.bits.Unary()
+	if err != nil {
+		throw(errors.Unwrap(err))
+	}
+	return n
+}
+
+// align reads the rest of the byte, and tells if it was noughts.
+func (in input) align() bool {
+	ok, err := in.bits.Align()
+	if err != nil {
+		throw(errors.Unwrap(err))
+	}
+	return ok
+}
+
 // text reads n bytes.
 func (in input) text(n int) string {
 	b := make([]byte, n)

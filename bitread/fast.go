@@ -72,7 +72,7 @@ func (f *Fast) longUnary() (int, error) {
 // take reads n bits, at most 32, that have come.
 func (f *Fast) take(n int) uint64 {
 	if n > f.held {
-		f.fill(f.next())
+		f.pool, f.held = f.filled(f.pool, f.held, f.next())
 	}
 	v := f.pool >> (64 - n)
 	f.drop(n)
@@ -91,16 +91,31 @@ func (f *Fast) next() int { return (f.at + f.held) / 8 }
 
 // move goes on at a bit of what has come, or right behind it, with a pool filled anew.
 func (f *Fast) move(bit int) {
-	f.pool, f.held = 0, 0
+	f.pool, f.held = f.filled(0, 0, bit/8)
 	f.at = bit / 8 * 8
-	f.fill(bit / 8)
 	f.drop(bit % 8)
 }
 
-// fill adds whole bytes, from byte i on, as far as they have come and have room.
-func (f *Fast) fill(i int) {
-	for ; f.held <= 56 && i < f.came(); i++ {
-		f.pool |= uint64(f.byteAt(i)) << (56 - f.held)
-		f.held += 8
+// filled tells a pool with whole bytes added, from byte i on, as far as they have come and have room.
+func (f *Fast) filled(pool uint64, held, i int) (uint64, int) {
+	behind := f.have[i-f.gone:]
+	if len(behind) >= 8 {
+		room := (64 - held) &^ 7
+		word := wordOf([8]byte(behind)) >> (64 - room) << (64 - room)
+		return pool | word>>held, held + room
 	}
+	for _, x := range behind {
+		if held > 56 {
+			break
+		}
+		pool |= uint64(x) << (56 - held)
+		held += 8
+	}
+	return pool, held
+}
+
+// wordOf makes a number of eight bytes, the first of them highest.
+func wordOf(b [8]byte) uint64 {
+	return uint64(b[0])<<56 | uint64(b[1])<<48 | uint64(b[2])<<40 | uint64(b[3])<<32 |
+		uint64(b[4])<<24 | uint64(b[5])<<16 | uint64(b[6])<<8 | uint64(b[7])
 }

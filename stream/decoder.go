@@ -3,7 +3,6 @@ package stream
 
 import (
 	"flacpair/api"
-	"flacpair/bitread"
 	"flacpair/sums"
 )
 
@@ -12,8 +11,7 @@ const noFrame = -1
 
 // Decoder decodes a stream.
 type Decoder struct {
-	in       input
-	crc      sums.CRC
+	ways
 	info     api.Info
 	frame    int       // the number of the frame that is read, or noFrame
 	at       int       // up to which byte all was decoded whole; while the head is read, where its part begins that is read now
@@ -25,7 +23,7 @@ type Decoder struct {
 
 // Open makes a decoder of a kind, which has read the stream's head.
 func Open(src api.Source, kind int) (*Decoder, error) {
-	d := &Decoder{in: input{bitread.New(src, kind)}, crc: sums.NewCRC(kind), frame: noFrame, md5: sums.NewMD5()}
+	d := &Decoder{ways: waysOf(src, kind), frame: noFrame, md5: sums.NewMD5()}
 	if err := attempt(d.readHead); err != nil {
 		return nil, d.placed(err)
 	}

@@ -14,7 +14,9 @@ func (d *Decoder) readFrame() api.Block {
 		channels[i] = d.readSubframe(head.size, head.bits(i))
 	}
 	d.readFrameEnd()
-	head.unpair(channels)
+	if head.isPair() {
+		d.unpair(head.pairing, channels[0], channels[1], head.depth)
+	}
 	block := api.Block{First: d.samples, Samples: channels}
 	d.count(head, channels)
 	return block
@@ -41,7 +43,7 @@ func (d *Decoder) count(head frameHead, channels [][]int) {
 // interleaved writes samples as the MD5 takes them.
 func interleaved(channels [][]int, depth int) []byte {
 	width := (depth + 7) / 8
-	var out []byte
+	out := make([]byte, 0, len(channels)*len(channels[0])*width)
 	for i := range channels[0] {
 		for _, samples := range channels {
 			for k := range width {

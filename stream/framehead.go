@@ -119,9 +119,11 @@ func (d *Decoder) isNext(head frameHead) bool {
 	return place && stream && head.size <= d.info.MaxBlock
 }
 
+func (h frameHead) isPair() bool { return h.pairing >= leftAndSide }
+
 // channels tells how many there are.
 func (h frameHead) channels() int {
-	if h.pairing >= leftAndSide {
+	if h.isPair() {
 		return 2
 	}
 	return h.pairing + 1

@@ -3,8 +3,12 @@ package stream
 import (
 	"errors"
 
+	"flacpair/api"
 	"flacpair/bitread"
 )
+
+// tooGreat is the least number that no residual is coded by.
+const tooGreat = 1<<32 - 1
 
 // input reads bits, and throws what stands in the way. The reader's place is taken off: a decoder's errors have the place of what it decodes.
 type input struct{ bits bitread.Reader }
@@ -34,6 +38,18 @@ func (in input) unary() int {
 		throw(errors.Unwrap(err))
 	}
 	return n
+}
+
+// residual reads one that is coded by a parameter.
+func (in input) residual(parameter int) int {
+	q := in.unary()
+	check(q <= tooGreat>>parameter, api.ErrRange)
+	v := q<<parameter + in.read(parameter)
+	check(v != tooGreat, api.ErrRange)
+	if v%2 == 0 {
+		return v / 2
+	}
+	return -(v + 1) / 2
 }
 
 // align reads the rest of the byte, and tells if it was noughts.

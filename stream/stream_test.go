@@ -47,3 +47,48 @@ func TestFits(t *testing.T) {
 		}
 	}
 }
+
+// A list is filled in order, whatever goes at once; what does not is asked for one by one.
+func TestInTurn(t *testing.T) {
+	for at := range 5 {
+		for size := range 20 {
+			next, ones := 0, 0
+			many := func(out []int) int {
+				n := min(at, len(out))
+				for i := range n {
+					out[i] = next
+					next++
+				}
+				return n
+			}
+			one := func() int {
+				next++
+				ones++
+				return next - 1
+			}
+			out := make([]int, size)
+			inTurn(out, many, one)
+			for i, v := range out {
+				if v != i {
+					t.Errorf("%d of %d, %d at once: %v", i, size, at, out)
+				}
+			}
+			if want := size / (at + 1); ones != want || next != size {
+				t.Errorf("%d, %d at once: %d by themselves, want %d; %d in all", size, at, ones, want, next)
+			}
+		}
+	}
+}
+
+// A fault of one that is read by itself ends the list there.
+func TestInTurnThrows(t *testing.T) {
+	out := make([]int, 9)
+	err := attempt(func() {
+		inTurn(out,
+			func(out []int) int { return copy(out, []int{1, 2}) },
+			func() int { throw(api.ErrEnd); return 0 })
+	})
+	if err != api.ErrEnd || out[1] != 2 || out[2] != 0 {
+		t.Errorf("%v, %v", err, out)
+	}
+}

@@ -21,8 +21,10 @@ func (d *Decoder) readSubframe(size, bits int) []int {
 	check(wasted < bits, api.ErrReserved)
 	samples := make([]int, size)
 	d.readSamples(kind, samples, bits-wasted)
-	for i := range samples {
-		samples[i] <<= wasted
+	if wasted > 0 {
+		for i := range samples {
+			samples[i] <<= wasted
+		}
 	}
 	return samples
 }
@@ -40,7 +42,7 @@ func (d *Decoder) readSamples(kind int, samples []int, bits int) {
 	case kind == constant:
 		d.readConstant(samples, bits)
 	case kind == verbatim:
-		d.readVerbatim(samples, bits)
+		d.numbers(samples, bits)
 	case kind >= fixed && kind <= lastFixed:
 		d.readFixed(kind-fixed, samples, bits)
 	case kind >= own:
@@ -57,17 +59,11 @@ func (d *Decoder) readConstant(samples []int, bits int) {
 	}
 }
 
-func (d *Decoder) readVerbatim(samples []int, bits int) {
-	for i := range samples {
-		samples[i] = d.in.signed(bits)
-	}
-}
-
 // readFixed reads samples that are foretold by a fixed rule.
 func (d *Decoder) readFixed(order int, samples []int, bits int) {
 	d.readFirstSamples(order, samples, bits)
 	d.readResiduals(order, samples)
-	foretell(fixedRule(order), 0, samples, bits)
+	d.foretell(fixedRule(order), 0, samples, bits)
 }
 
 // readOwn reads samples that are foretold by a rule of the subframe's own.
@@ -78,15 +74,15 @@ func (d *Decoder) readOwn(order int, samples []int, bits int) {
 	shift := d.in.signed(5)
 	check(shift >= 0, api.ErrReserved)
 	rule := make([]int, order)
-	d.readVerbatim(rule, precision+1)
+	d.numbers(rule, precision+1)
 	d.readResiduals(order, samples)
-	foretell(rule, shift, samples, bits)
+	d.foretell(rule, shift, samples, bits)
 }
 
 // readFirstSamples reads the samples that nothing foretells.
 func (d *Decoder) readFirstSamples(order int, samples []int, bits int) {
 	check(order <= len(samples), api.ErrReserved)
-	d.readVerbatim(samples[:order], bits)
+	d.numbers(samples[:order], bits)
 }
 
 func fixedRule(order int) []int {
@@ -101,16 +97,4 @@ func fixedRule(order int) []int {
 		return []int{4, -6, 4, -1}
 	}
 	return nil
-}
-
-// foretell adds what a rule foretells to the residuals that stand behind the first samples. As each sample fits, no sum leaves 64 bits.
-func foretell(rule []int, shift int, samples []int, bits int) {
-	for i := len(rule); i < len(samples); i++ {
-		sum := 0
-		for k, c := range rule {
-			sum += c * samples[i-1-k]
-		}
-		samples[i] += sum >> shift
-		check(fits(samples[i], bits), api.ErrRange)
-	}
 }
